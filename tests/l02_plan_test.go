@@ -37,6 +37,10 @@ func oneSaid(from string, to string, label string) []impl.Node {
 	return []impl.Node{msgNode(from, to, 1), caseNode(label, impl.SoNone)}
 }
 
+func isTalk(n impl.Node) bool {
+	return n.Op == impl.NdMsg || n.Op == impl.NdSend || n.Op == impl.NdRecv
+}
+
 func rowOf(parts ...[]impl.Node) []impl.Node {
 	return slices.Concat(parts...)
 }
@@ -45,7 +49,7 @@ func nodes(l ...impl.Node) []impl.Node {
 	return l
 }
 
-// drawn is the text of a row whose Nodes are just one plan, by a stack of the cases that are still to come.
+// drawn is the text of a row whose Nodes are just one plan or part, by a stack of the cases that are still to come.
 func drawn(l []impl.Node) string {
 	text := ""
 	var left []int64
@@ -57,14 +61,14 @@ func drawn(l []impl.Node) string {
 			text += n.Name
 		case impl.NdRec:
 			text += "rec " + n.Name + "."
-		case impl.NdMsg:
-			text += n.Name + ">" + n.Peer + "{"
+		case impl.NdMsg, impl.NdSend, impl.NdRecv:
+			text += map[int64]string{impl.NdMsg: n.Name + ">" + n.Peer, impl.NdSend: n.Peer + "!", impl.NdRecv: n.Peer + "?"}[n.Op] + "{"
 			left = append(left, n.Many)
 		case impl.NdCase:
 			text += n.Name + "(" + sorts[n.Sort] + ")."
 			left[len(left)-1]--
 		}
-		if n.Op > impl.NdVar {
+		if n.Op != impl.NdEnd && n.Op != impl.NdVar {
 			continue
 		}
 		for len(left) > 0 && left[len(left)-1] == 0 {
@@ -78,7 +82,7 @@ func drawn(l []impl.Node) string {
 	return text
 }
 
-// parentsOf tells in which Node each stands (-1 outermost; a case in its message, a plan in its case or NdRec), and whether the row is just one plan.
+// parentsOf tells in which Node each stands (-1 outermost; a case in its message, a plan in its case or NdRec), and whether the row is just one plan or part.
 func parentsOf(l []impl.Node) ([]int, bool) {
 	parents := make([]int, len(l))
 	type want struct {
@@ -100,7 +104,7 @@ func parentsOf(l []impl.Node) ([]int, bool) {
 		case impl.NdEnd, impl.NdVar:
 		case impl.NdRec, impl.NdCase:
 			wants = append(wants, want{i, false})
-		case impl.NdMsg:
+		case impl.NdMsg, impl.NdSend, impl.NdRecv:
 			if n.Many < 1 || n.Many > 4 {
 				return nil, false
 			}
@@ -134,10 +138,10 @@ func fieldsRight(n impl.Node) bool {
 func placeRight(l []impl.Node, parents []int, at int) bool {
 	deep, said, found := 0, false, false
 	for i := at; i >= 0; i = parents[i] {
-		if l[i].Op == impl.NdRec || l[i].Op == impl.NdMsg {
+		if l[i].Op == impl.NdRec || isTalk(l[i]) {
 			deep++
 		}
-		said = said || l[i].Op == impl.NdMsg
+		said = said || isTalk(l[i])
 		if i != at && l[i].Op == impl.NdRec && l[i].Name == l[at].Name && !found {
 			found = true
 			if l[at].Op == impl.NdRec || l[at].Op == impl.NdVar && !said {
@@ -150,6 +154,10 @@ func placeRight(l []impl.Node, parents []int, at int) bool {
 
 // ownRight asks each rule of chapter 3 by itself.
 func ownRight(l []impl.Node) bool {
+	return rulesHold(l, fieldsRight)
+}
+
+func rulesHold(l []impl.Node, fields func(impl.Node) bool) bool {
 	parents, ok := parentsOf(l)
 	if !ok || len(l) > 40 {
 		return false
@@ -157,11 +165,13 @@ func ownRight(l []impl.Node) bool {
 	roles := map[string]int{}
 	labels := map[string]int{}
 	for i, n := range l {
-		if !fieldsRight(n) || !placeRight(l, parents, i) {
+		if !fields(n) || !placeRight(l, parents, i) {
 			return false
 		}
 		if n.Op == impl.NdMsg {
 			roles[n.Name]++
+		}
+		if isTalk(n) {
 			roles[n.Peer]++
 		}
 		if n.Op == impl.NdCase {
