@@ -56,6 +56,14 @@ func (f readFault) Error() string {
 	return "bytes are refused with code " + strconv.FormatInt(f.code, 10)
 }
 
+// reading goes through a text from its beginning on.
+// The first fault stays: behind it only zero values are read, so that it need be asked for but once, at the end.
+type reading struct {
+	text string
+	at   int64
+	err  error
+}
+
 // codeOf takes the code out of what a read told; without a fault it is OK.
 func codeOf(err error) int64 {
 	var f readFault
@@ -228,6 +236,39 @@ func readText(text string, at int64) (string, int64, error) {
 		return "", 0, readFault{code: ErrShort}
 	}
 	return join(text[from : from+n]), from + n, nil
+}
+
+func (r *reading) num() int64 {
+	if r.err != nil {
+		return 0
+	}
+	n, behind, err := readNum(r.text, r.at)
+	r.at, r.err = behind, err
+	return n
+}
+
+func (r *reading) word() string {
+	if r.err != nil {
+		return ""
+	}
+	t, behind, err := readText(r.text, r.at)
+	r.at, r.err = behind, err
+	return t
+}
+
+// count reads how many of something come; more than may be are none, so that nobody makes room for them.
+func (r *reading) count(most int64) int64 {
+	n := r.num()
+	if n < 0 || n > most {
+		r.err = readFault{code: ErrSyntax}
+		return 0
+	}
+	return n
+}
+
+// whole: has all of the text been read, without a fault?
+func (r *reading) whole() bool {
+	return r.err == nil && r.at == int64(len(r.text))
 }
 
 // join makes new memory even of a single text: an answer shares none with an argument.
