@@ -293,6 +293,10 @@ func isDigit(b byte) bool {
 	return b >= '0' && b <= '9'
 }
 
+func timeRight(n int64) bool {
+	return n >= 0 && n <= MaxTime
+}
+
 func crcByte(register uint32, b byte) uint32 {
 	register ^= uint32(b) // the eight bits are put together at once; the shifts bring each down in its turn
 	for range 8 {
