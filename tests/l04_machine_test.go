@@ -331,6 +331,9 @@ func holdsWrong(t *testing.T, what string, m impl.Machine) {
 			if got := impl.Follow(m, list); got != -1 {
 				t.Errorf("%s: Follow of %d acts: got %d", what, len(list), got)
 			}
+			if got := impl.Watch(m, list); got != -1 {
+				t.Errorf("%s: Watch of %d acts: got %d", what, len(list), got)
+			}
 		}
 	}
 }
@@ -928,22 +931,25 @@ func TestPromise6Steps(t *testing.T) {
 	}
 }
 
-// holdsFollow: just as far as StepOf leads somewhere, act by act.
+// holdsFollow: just as far as StepOf leads somewhere, act by act; and who watches finds the first one that does not.
 func holdsFollow(t *testing.T, m impl.Machine, acts []impl.Act) int64 {
 	t.Helper()
 	before := slices.Clone(acts)
-	state := m.Start
+	state, first := m.Start, int64(-1)
 	for i, a := range acts {
 		if state = ownStep(m, state, a); state < 0 {
-			state = -1 - int64(i)
+			state, first = -1-int64(i), int64(i)
 			break
 		}
 	}
 	if len(acts) > 60 {
-		state = -1
+		state, first = -1, -1
 	}
 	if got := impl.Follow(m, acts); got != state {
 		t.Errorf("Follow(%v, %v): got %d, want %d", m, acts, got, state)
+	}
+	if got := impl.Watch(m, acts); got != first {
+		t.Errorf("Watch(%v, %v): got %d, want %d", m, acts, got, first)
 	}
 	if !slices.Equal(acts, before) {
 		t.Errorf("the acts have been changed: %v", acts)
